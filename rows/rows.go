@@ -41,16 +41,38 @@ func Numbers(words []string, digits int, places ...*int) bool {
 		return false
 	}
 	for i, word := range words {
-		if !isNumber(word, digits) {
-			return false
-		}
-		n, err := strconv.Atoi(word)
-		if err != nil {
+		n, ok := number(word, digits)
+		if !ok {
 			return false
 		}
 		*places[i] = n
 	}
 	return true
+}
+
+// List reads any number of numbers, of at most so many digits.
+func List(words []string, digits int) ([]int, bool) {
+	var list []int
+	for _, word := range words {
+		n, ok := number(word, digits)
+		if !ok {
+			return nil, false
+		}
+		list = append(list, n)
+	}
+	return list, true
+}
+
+// number reads a number; none if it is too great for an int.
+func number(word string, digits int) (int, bool) {
+	if !isNumber(word, digits) {
+		return 0, false
+	}
+	n, err := strconv.Atoi(word)
+	if err != nil {
+		return 0, false
+	}
+	return n, true
 }
 
 // isNumber says whether a word is a decimal number without a sign and needless zeros.

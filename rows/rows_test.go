@@ -95,3 +95,31 @@ func TestNumbers(t *testing.T) {
 		t.Error("no words for no places")
 	}
 }
+
+func TestList(t *testing.T) {
+	for _, c := range []struct {
+		text string
+		want []int
+		ok   bool
+	}{
+		{"7", []int{7}, true},
+		{"0 999 100 0", []int{0, 999, 100, 0}, true},
+		{"", nil, false},
+		{"1 ", nil, false},
+		{" 1", nil, false},
+		{"1 1000", nil, false},
+		{"1 02", nil, false},
+		{"-1 2", nil, false},
+		{"1 x 2", nil, false},
+	} {
+		if list, ok := rows.List(strings.Split(c.text, " "), 3); ok != c.ok || !slices.Equal(list, c.want) {
+			t.Errorf("%q %v %v", c.text, list, ok)
+		}
+	}
+	if list, ok := rows.List(nil, 3); !ok || len(list) > 0 {
+		t.Error("no words:", list, ok)
+	}
+	if list, ok := rows.List([]string{"1", strings.Repeat("9", 30)}, 30); ok || len(list) > 0 {
+		t.Error("a number that is no int:", list, ok)
+	}
+}
