@@ -15,15 +15,23 @@ func Row(first string, numbers ...int) string {
 	return row + "\n"
 }
 
+// Next returns the words of the first row of a text, and what stands behind it; it is not ok if there is none that is ended.
+func Next(text string) (words []string, rest string, ok bool) {
+	line, rest, fed := strings.Cut(text, "\n")
+	if !fed {
+		return nil, "", false
+	}
+	return strings.Split(line, " "), rest, true
+}
+
 // Wrong gives the number (from 1 on) and the words of each row to take, which says whether they are as they have to be.
 // It returns the number of the first row that is not, that is not ended or that stands behind the row "end"; if there is no row "end", that of the row behind the last one; and 0 if nothing is wrong.
 func Wrong(text string, take func(row int, words []string) bool) int {
 	row, ended := 0, false
 	for text != "" {
-		line, rest, fed := strings.Cut(text, "\n")
-		words := strings.Split(line, " ")
+		words, rest, ok := Next(text)
 		row++
-		if ended || !fed || !take(row, words) {
+		if ended || !ok || !take(row, words) {
 			return row
 		}
 		ended = words[0] == "end"

@@ -123,3 +123,24 @@ func TestList(t *testing.T) {
 		t.Error("a number that is no int:", list, ok)
 	}
 }
+
+func TestNext(t *testing.T) {
+	for _, c := range []struct {
+		text, words, rest string
+		ok                bool
+	}{
+		{"a b\nc\nd", "a,b", "c\nd", true},
+		{"a\n", "a", "", true},
+		{"\n", "", "", true},
+		{"\n\n", "", "\n", true},
+		{" a  b \n c", ",a,,b,", " c", true},
+		{"a\tb\r\n", "a\tb\r", "", true},
+		{"", "", "", false},
+		{"a b", "", "", false},
+	} {
+		words, rest, ok := rows.Next(c.text)
+		if strings.Join(words, ",") != c.words || rest != c.rest || ok != c.ok || ok == (len(words) == 0) {
+			t.Errorf("%q %q %q %v", c.text, words, rest, ok)
+		}
+	}
+}
